@@ -724,6 +724,50 @@ func TestP407Answers(t *testing.T) {
 }
 
 // TestNoLedger: no call panics, also of a ledger or on a disk that is none.
+// Peek tells what an Open and a Read would, wherever a commit was interrupted, and touches nothing.
+func TestPeek(t *testing.T) {
+	for fuse := 0; fuse < 20; fuse++ {
+		d, l := made(t, 4)
+		commit(t, l, put(0, 1), put(1, 2))
+		d.Fuse(fuse)
+		l.Commit([]api.Put{put(2, 3), put(0, 4)})
+		for _, keep := range keeps(d) {
+			twin := d.Twin()
+			twin.Crash(keep)
+			is(t, "another's write", twin.Write(api.Log+3, full(9)), api.OK)
+			opened := opened(t, twin.Twin())
+			twin.Fuse(1)
+			for at := range 4 {
+				b, e := Peek(twin, at)
+				want, _ := opened.Read(at)
+				is(t, "Peek", e, api.OK)
+				is(t, "Peek", string(b), string(want))
+			}
+			for _, at := range []int{-1, 4, math.MaxInt} {
+				b, e := Peek(twin, at)
+				is(t, "no block", e, api.ErrBlock)
+				is(t, "no bytes", b == nil, true)
+			}
+			is(t, "no step was made", twin.On(), true)
+			is(t, "held back still", slices.Equal(twin.Pending(), []int{api.Log + 3}), true)
+		}
+	}
+}
+
+func TestPeekRefused(t *testing.T) {
+	d := bare(t, 4)
+	b, e := Peek(d, 0)
+	is(t, "raw", e, api.ErrRaw)
+	is(t, "no bytes", b == nil, true)
+	_, e = Peek(d, -1)
+	is(t, "raw, ahead of the block", e, api.ErrRaw)
+	d.Fuse(0)
+	_, e = Peek(d, 0)
+	is(t, "off", e, api.ErrOff)
+	_, e = Peek(nil, 0)
+	is(t, "no disk", e, api.ErrOff)
+}
+
 func TestNoLedger(t *testing.T) {
 	for _, l := range []*Ledger{nil, {}} {
 		is(t, "Blocks", l.Blocks(), 0)

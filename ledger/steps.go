@@ -28,6 +28,15 @@ func (l *Ledger) attempt(do func()) (e api.Errno) {
 	return api.OK
 }
 
+// head tells the disk's head, or gives up, if the disk was not formatted.
+func (l *Ledger) head() head {
+	h, ok := parse(l.read(headAt))
+	if !ok || h.blocks != l.disk.Blocks() {
+		panic(api.ErrRaw)
+	}
+	return h
+}
+
 // apply gives the blocks that a head names the bytes that stand aside for them.
 func (l *Ledger) apply(h head) {
 	for i, at := range h.ats {
