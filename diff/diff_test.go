@@ -14,6 +14,7 @@ import (
 
 	"shunt/api"
 	"shunt/match"
+	"shunt/sample"
 	"shunt/tree"
 )
 
@@ -23,94 +24,6 @@ func is[T comparable](t *testing.T, what string, got, want T) {
 	if got != want {
 		t.Errorf("%s: %v, want %v", what, got, want)
 	}
-}
-
-// number tells the number that a text is.
-func number(t *testing.T, text string) int {
-	t.Helper()
-	n, err := strconv.Atoi(text)
-	if err != nil {
-		t.Fatal(err)
-	}
-	return n
-}
-
-// grow is a tree by words: "a/" is a directory, "a=x" a file of its own with these bytes, "b>a" one more name of a's file. Behind a colon stands the mode of the first two; else it is 493, or 420.
-func grow(t *testing.T, words string) api.Tree {
-	t.Helper()
-	var x api.Tree
-	numbers := map[string]int{}
-	for _, w := range strings.Fields(words) {
-		w, text, own := strings.Cut(w, ":")
-		mode := 420
-		if strings.HasSuffix(w, "/") {
-			mode = 493
-		}
-		if own {
-			mode = number(t, text)
-		}
-		if p, ok := strings.CutSuffix(w, "/"); ok {
-			x.Nodes = append(x.Nodes, api.Node{Path: p, File: -1, Mode: mode})
-			continue
-		}
-		p, first, link := strings.Cut(w, ">")
-		if link {
-			numbers[p] = numbers[first]
-		} else {
-			var data string
-			p, data, _ = strings.Cut(w, "=")
-			numbers[p] = len(x.Files)
-			x.Files = append(x.Files, api.File{Mode: mode, Data: []byte(data)})
-		}
-		x.Nodes = append(x.Nodes, api.Node{Path: p, File: numbers[p]})
-	}
-	c, e := tree.Canon(x)
-	if e != api.OK || tree.Check(c) != api.OK {
-		t.Fatalf("%s: %v", words, e)
-	}
-	return c
-}
-
-// read is actions by their words: "rename a b", "write a 420 0", with "; " between.
-func read(t *testing.T, text string) []api.Act {
-	t.Helper()
-	var list []api.Act
-	for _, words := range strings.Split(text, "; ") {
-		w := strings.Fields(words)
-		if len(w) == 0 {
-			continue
-		}
-		switch w[0] {
-		case "unlink":
-			list = append(list, api.Act{Op: api.OpUnlink, Path: w[1]})
-		case "rmdir":
-			list = append(list, api.Act{Op: api.OpRmdir, Path: w[1]})
-		case "mkdir":
-			list = append(list, api.Act{Op: api.OpMkdir, Path: w[1], Mode: number(t, w[2])})
-		case "rename":
-			list = append(list, api.Act{Op: api.OpRename, Path: w[1], To: w[2]})
-		case "write":
-			list = append(list, api.Act{Op: api.OpWrite, Path: w[1], Mode: number(t, w[2]), Ref: number(t, w[3])})
-		case "copy":
-			list = append(list, api.Act{Op: api.OpCopy, Path: w[1], To: w[2], Mode: number(t, w[3])})
-		case "link":
-			list = append(list, api.Act{Op: api.OpLink, Path: w[1], To: w[2]})
-		case "chmod":
-			list = append(list, api.Act{Op: api.OpChmod, Path: w[1], Mode: number(t, w[2])})
-		default:
-			t.Fatal(words)
-		}
-	}
-	return list
-}
-
-// contents is a list of these texts, as a stock is one.
-func contents(list ...string) [][]byte {
-	var l [][]byte
-	for _, b := range list {
-		l = append(l, []byte(b))
-	}
-	return l
 }
 
 // acts wants Acts to tell these actions.
@@ -128,7 +41,7 @@ type rows []struct{ s, t, want string }
 func (r rows) hold(t *testing.T) {
 	t.Helper()
 	for _, x := range r {
-		acts(t, x.s+" to "+x.t, grow(t, x.s), grow(t, x.t), contents("x", "y", "x", "z"), read(t, x.want))
+		acts(t, x.s+" to "+x.t, sample.Tree(t, x.s), sample.Tree(t, x.t), sample.Contents("x", "y", "x", "z"), sample.Acts(t, x.want))
 	}
 }
 
@@ -286,26 +199,17 @@ func TestP1201Chmods(t *testing.T) {
 
 // TestP1201Groups: one group behind the other.
 func TestP1201Groups(t *testing.T) {
-	a := grow(t, "a/:1 b=v c>b d/ d/e=u f=w:3 g/")
-	b := grow(t, "a/:2 b/:4 b/a=v:5 d=u g/ g/h=z:6 g/i>g/h i=z k>d m=u:8")
-	acts(t, "all groups", a, b, contents("y", "z"), read(t,
+	a := sample.Tree(t, "a/:1 b=v c>b d/ d/e=u f=w:3 g/")
+	b := sample.Tree(t, "a/:2 b/:4 b/a=v:5 d=u g/ g/h=z:6 g/i>g/h i=z k>d m=u:8")
+	acts(t, "all groups", a, b, sample.Contents("y", "z"), sample.Acts(t,
 		"unlink c; unlink f; rmdir d; mkdir b 4; rename b b/a; rename d/e d; write g/h 6 1; copy g/h i 420; copy d m 8; link g/h g/i; link d k; chmod a 2; chmod b/a 5"))
-}
-
-// flat has so many directories in the root.
-func flat(n int) api.Tree {
-	var x api.Tree
-	for i := range n {
-		x.Nodes = append(x.Nodes, api.Node{Path: strconv.Itoa(1000 + i), File: -1})
-	}
-	return x
 }
 
 // TestP1201Errors: of all that is wrong the first thing is told, as match.Match tells it, and nothing else.
 func TestP1201Errors(t *testing.T) {
 	one := []api.File{{Data: []byte("x")}}
-	good, missing := grow(t, "a=x b/"), grow(t, "a=x b=y")
-	trees := []api.Tree{good, missing, {}, flat(api.MaxNodes), flat(api.MaxNodes + 1), flat(api.MaxLoose + 1),
+	good, missing := sample.Tree(t, "a=x b/"), sample.Tree(t, "a=x b=y")
+	trees := []api.Tree{good, missing, {}, sample.Flat(api.MaxNodes), sample.Flat(api.MaxNodes + 1), sample.Flat(api.MaxLoose + 1),
 		{Files: make([]api.File, api.MaxLoose+1)}, {Nodes: make([]api.Node, api.MaxNodes+1)},
 		{Nodes: []api.Node{{Path: "a"}}, Files: []api.File{{Data: make([]byte, api.MaxData+1)}}},
 		{Files: one}, {Nodes: []api.Node{{Path: "a"}}}, {Nodes: []api.Node{{Path: "a", File: -2}}, Files: one},
@@ -314,7 +218,7 @@ func TestP1201Errors(t *testing.T) {
 		{Nodes: []api.Node{{Path: ".ts-0"}}, Files: one}, {Nodes: []api.Node{{Path: "a", File: -1, Mode: 512}}},
 		{Nodes: []api.Node{{Path: "a"}}, Files: []api.File{{Mode: -1}}},
 	}
-	stocks := [][][]byte{nil, contents("y"), contents("x", "z"), contents(strings.Repeat("y", api.MaxData+1)), make([][]byte, 65536),
+	stocks := [][][]byte{nil, sample.Contents("y"), sample.Contents("x", "z"), sample.Contents(strings.Repeat("y", api.MaxData+1)), make([][]byte, 65536),
 		append(slices.Repeat([][]byte{make([]byte, api.MaxData)}, 8), []byte("y"))}
 	met := map[api.Errno]bool{}
 	for _, a := range trees {
@@ -377,7 +281,7 @@ func TestP1201Great(t *testing.T) {
 	acts(t, "all files go", a, api.Tree{}, nil, unlinks)
 	acts(t, "all files come", api.Tree{}, b, stock, writes)
 	acts(t, "all files get other names and modes", a, b, nil, append(slices.Clone(renames), chmods...))
-	dirs := flat(api.MaxNodes)
+	dirs := sample.Flat(api.MaxNodes)
 	acts(t, "all directories go", dirs, api.Tree{}, nil, rmdirs)
 	acts(t, "all directories come", api.Tree{}, dirs, nil, mkdirs)
 	acts(t, "files for directories", dirs, b, stock, append(slices.Clone(rmdirs), writes...))
@@ -613,90 +517,16 @@ func sound(t *testing.T, a, b api.Tree, stock [][]byte) {
 	}
 }
 
-// small are all trees of the names a, b and a/b, with files of two contents, of which one is there with two modes, and directories of two modes.
-func small(t *testing.T) []api.Tree {
-	t.Helper()
-	kinds := []api.File{{Mode: 1, Data: []byte("x")}, {Mode: 2, Data: []byte("x")}, {Mode: 1, Data: []byte("y")}}
-	var list []api.Tree
-	seen := map[string]bool{}
-	for code := range 6 * 6 * 4 * 27 {
-		digit := func(n int) int {
-			d := code % n
-			code /= n
-			return d
-		}
-		var x api.Tree
-		for _, p := range []struct {
-			path  string
-			count int
-		}{{"a", 6}, {"b", 6}, {"a/b", 4}} {
-			switch d := digit(p.count); d {
-			case 3:
-			case 4, 5:
-				x.Nodes = append(x.Nodes, api.Node{Path: p.path, File: -1, Mode: d})
-			default:
-				x.Nodes = append(x.Nodes, api.Node{Path: p.path, File: d})
-			}
-		}
-		for range 3 {
-			x.Files = append(x.Files, kinds[digit(3)])
-		}
-		x, e := tree.Canon(x)
-		if e != api.OK {
-			continue // a/b, but no directory a
-		}
-		b, _ := tree.Bytes(x)
-		if !seen[string(b)] {
-			seen[string(b)] = true
-			list = append(list, x)
-		}
-	}
-	return list
-}
-
 func TestP1202All(t *testing.T) {
-	list := small(t)
+	list := sample.Small()
 	for _, a := range list {
 		for _, b := range list {
-			sound(t, a, b, contents("y", "", "y", "x"))
+			sound(t, a, b, sample.Contents("y", "", "y", "x"))
 		}
 	}
 	for i, a := range list {
-		sound(t, a, list[len(list)-1-i], contents("x"))
+		sound(t, a, list[len(list)-1-i], sample.Contents("x"))
 	}
-}
-
-// chance is a tree that is grown by chance.
-func chance(t *testing.T, r *rand.Rand) api.Tree {
-	t.Helper()
-	var x api.Tree
-	used := map[string]bool{}
-	dirs := []string{""}
-	spot := func() (string, bool) {
-		p := dirs[r.Intn(len(dirs))] + string([]rune("abcd-")[r.Intn(5)])
-		ok := !used[p] && strings.Count(p, "/") < api.MaxDepth
-		used[p] = true
-		return p, ok
-	}
-	for range r.Intn(5) {
-		if p, ok := spot(); ok {
-			x.Nodes = append(x.Nodes, api.Node{Path: p, File: -1, Mode: r.Intn(2)})
-			dirs = append(dirs, p+"/")
-		}
-	}
-	for range 1 + r.Intn(7) {
-		x.Files = append(x.Files, api.File{Mode: r.Intn(2), Data: bytes.Repeat([]byte{byte('x' + r.Intn(2))}, r.Intn(3))})
-	}
-	for range 2 * len(x.Files) {
-		if p, ok := spot(); ok {
-			x.Nodes = append(x.Nodes, api.Node{Path: p, File: r.Intn(len(x.Files))})
-		}
-	}
-	c, e := tree.Canon(x)
-	if e != api.OK || tree.Check(c) != api.OK {
-		t.Fatalf("%v: %v", x, e)
-	}
-	return c
 }
 
 // changed is a tree with some of its modes and contents turned, and some of its files' names handed round.
@@ -727,8 +557,8 @@ func changed(t *testing.T, r *rand.Rand, a api.Tree) api.Tree {
 func TestP1202Chance(t *testing.T) {
 	r := rand.New(rand.NewSource(12))
 	for range 4000 {
-		a, b := chance(t, r), chance(t, r)
-		stock := contents("yy", "", "x", "y", "x", "xx", "z", "yy")
+		a, b := sample.Chance(t, r), sample.Chance(t, r)
+		stock := sample.Contents("yy", "", "x", "y", "x", "xx", "z", "yy")
 		r.Shuffle(len(stock), func(i, j int) { stock[i], stock[j] = stock[j], stock[i] })
 		sound(t, a, b, stock)
 		sound(t, a, b, stock[:r.Intn(len(stock)+1)])
@@ -738,40 +568,21 @@ func TestP1202Chance(t *testing.T) {
 	}
 }
 
-// room is bytes with as many spare ones behind them.
-func room(b []byte) []byte {
-	return append(bytes.Clone(b), bytes.Repeat([]byte{'r'}, 1+len(b))...)[:len(b)]
-}
-
-// roomy is a tree in lists with spare room.
-func roomy(x api.Tree) api.Tree {
-	nodes := append(slices.Clone(x.Nodes), api.Node{Path: "spare", File: 5, Mode: 6}, api.Node{Path: "zz"})
-	files := append(slices.Clone(x.Files), api.File{Mode: 3, Data: []byte("spare")})
-	for i, f := range files {
-		files[i].Data = room(f.Data)
-	}
-	return api.Tree{Nodes: nodes[:len(x.Nodes)], Files: files[:len(x.Files)]}
-}
-
 // whole is all that stands in a tree's lists, and in those of a stock, spare room too.
 func whole(x api.Tree, stock [][]byte) (api.Tree, [][]byte) {
-	w := api.Tree{Nodes: slices.Clone(x.Nodes[:cap(x.Nodes)]), Files: slices.Clone(x.Files[:cap(x.Files)])}
-	for i, f := range w.Files {
-		w.Files[i].Data = bytes.Clone(f.Data[:cap(f.Data)])
-	}
 	list := slices.Clone(stock[:cap(stock)])
 	for i, b := range list {
 		list[i] = bytes.Clone(b[:cap(b)])
 	}
-	return w, list
+	return sample.Whole(x), list
 }
 
 // TestP1203Stays: what is handed in stays, also where what was answered is turned; what was answered stays where what was handed in is turned.
 func TestP1203Stays(t *testing.T) {
 	r := rand.New(rand.NewSource(13))
 	for range 300 {
-		a, b := roomy(chance(t, r)), roomy(chance(t, r))
-		stock := append(make([][]byte, 0, 8), room([]byte("yy")), room([]byte("x")), room(nil), room([]byte("xx")), room([]byte("y")))
+		a, b := sample.Roomy(sample.Chance(t, r)), sample.Roomy(sample.Chance(t, r))
+		stock := append(make([][]byte, 0, 8), sample.Room([]byte("yy")), sample.Room([]byte("x")), sample.Room(nil), sample.Room([]byte("xx")), sample.Room([]byte("y")))
 		wasA, wasStock := whole(a, stock)
 		wasB, _ := whole(b, stock)
 		list, e := Acts(a, b, stock)
@@ -799,8 +610,8 @@ func TestP1203Stays(t *testing.T) {
 
 // TestJoined: calls at one time hinder one another in nothing, and leave no goroutine behind.
 func TestJoined(t *testing.T) {
-	a, b := grow(t, "a/:1 b=v c>b d/ d/e=u f=w:3 g/"), grow(t, "a/:2 b/:4 b/a=v:5 d=u g/ g/h=z:6 g/i>g/h i=z k>d m=u:8")
-	stock := contents("y", "z")
+	a, b := sample.Tree(t, "a/:1 b=v c>b d/ d/e=u f=w:3 g/"), sample.Tree(t, "a/:2 b/:4 b/a=v:5 d=u g/ g/h=z:6 g/i>g/h i=z k>d m=u:8")
+	stock := sample.Contents("y", "z")
 	want, e := Acts(a, b, stock)
 	is(t, "Acts", e, api.OK)
 	before := runtime.NumGoroutine()
@@ -828,9 +639,9 @@ func TestJoined(t *testing.T) {
 }
 
 func TestExamples(t *testing.T) {
-	a, b := grow(t, "a=x d/ d/y=y"), grow(t, "a/:448 a/x=x:384 b=n c>b")
-	acts(t, "the chapter's", a, b, contents("n"), read(t, "unlink d/y; rmdir d; mkdir a 448; rename a a/x; write b 420 0; link b c; chmod a/x 384"))
-	acts(t, "round", grow(t, "a=x b=y"), grow(t, "a=y b=x"), nil, read(t, "rename b a; rename a b"))
-	acts(t, "a directory's file takes its place", grow(t, "d/ d/x=x"), grow(t, "d=x"), nil, read(t, "rmdir d; rename d/x d"))
-	acts(t, "once", grow(t, "a=x"), grow(t, "a=x b=z c=z"), contents("z"), read(t, "write b 420 0; copy b c 420"))
+	a, b := sample.Tree(t, "a=x d/ d/y=y"), sample.Tree(t, "a/:448 a/x=x:384 b=n c>b")
+	acts(t, "the chapter's", a, b, sample.Contents("n"), sample.Acts(t, "unlink d/y; rmdir d; mkdir a 448; rename a a/x; write b 420 0; link b c; chmod a/x 384"))
+	acts(t, "round", sample.Tree(t, "a=x b=y"), sample.Tree(t, "a=y b=x"), nil, sample.Acts(t, "rename b a; rename a b"))
+	acts(t, "a directory's file takes its place", sample.Tree(t, "d/ d/x=x"), sample.Tree(t, "d=x"), nil, sample.Acts(t, "rmdir d; rename d/x d"))
+	acts(t, "once", sample.Tree(t, "a=x"), sample.Tree(t, "a=x b=z c=z"), sample.Contents("z"), sample.Acts(t, "write b 420 0; copy b c 420"))
 }

@@ -10,6 +10,7 @@ import (
 	"testing"
 
 	"shunt/api"
+	"shunt/sample"
 	"shunt/tree"
 )
 
@@ -26,51 +27,6 @@ func keep(file int) api.Source { return api.Source{Kind: api.Keep, File: file} }
 func copied(file int) api.Source { return api.Source{Kind: api.Copy, File: file} }
 
 func brought(ref int) api.Source { return api.Source{Kind: api.New, Ref: ref} }
-
-// grow is a tree by words: "a/" is a directory, "a=x" a file of its own with these bytes, "b>a" one more name of a's file.
-func grow(t *testing.T, words string) api.Tree {
-	t.Helper()
-	var x api.Tree
-	numbers := map[string]int{}
-	for _, w := range strings.Fields(words) {
-		if p, ok := strings.CutSuffix(w, "/"); ok {
-			x.Nodes = append(x.Nodes, api.Node{Path: p, File: -1, Mode: 493})
-			continue
-		}
-		p, data, own := strings.Cut(w, "=")
-		if own {
-			numbers[p] = len(x.Files)
-			x.Files = append(x.Files, api.File{Mode: 420, Data: []byte(data)})
-		} else {
-			var first string
-			p, first, _ = strings.Cut(w, ">")
-			numbers[p] = numbers[first]
-		}
-		x.Nodes = append(x.Nodes, api.Node{Path: p, File: numbers[p]})
-	}
-	c, e := tree.Canon(x)
-	if e != api.OK || tree.Check(c) != api.OK {
-		t.Fatalf("%s: %v", words, e)
-	}
-	return c
-}
-
-// contents is a list of these texts, as a stock is one.
-func contents(list ...string) [][]byte {
-	var l [][]byte
-	for _, b := range list {
-		l = append(l, []byte(b))
-	}
-	return l
-}
-
-func strs(l [][]byte) []string {
-	var list []string
-	for _, b := range l {
-		list = append(list, string(b))
-	}
-	return list
-}
 
 // matches wants Match to tell these sources.
 func matches(t *testing.T, what string, a, b api.Tree, stock [][]byte, want ...api.Source) {
@@ -93,7 +49,7 @@ func refuses(t *testing.T, what string, a, b api.Tree, stock [][]byte, want api.
 func fresh(t *testing.T, what string, a, b api.Tree, want ...string) {
 	t.Helper()
 	got, e := Fresh(a, b)
-	if e != api.OK || !slices.Equal(strs(got), want) {
+	if e != api.OK || !slices.Equal(sample.Texts(got), want) {
 		t.Errorf("%s: Fresh: %q, %v, want %q", what, got, e, want)
 	}
 }
@@ -139,7 +95,7 @@ func TestP1101Names(t *testing.T) {
 		{"a=x b>a c>a", "b=x c=x", []api.Source{keep(0), copied(0)}},
 		{"a=x b>a", "a=x c>a b=x d>b", []api.Source{keep(0), copied(0)}},
 	} {
-		matches(t, x.s+" to "+x.t, grow(t, x.s), grow(t, x.t), nil, x.want...)
+		matches(t, x.s+" to "+x.t, sample.Tree(t, x.s), sample.Tree(t, x.t), nil, x.want...)
 	}
 }
 
@@ -165,7 +121,7 @@ func TestP1101Bytes(t *testing.T) {
 		{"a=y b=x", "a=x c=y", []api.Source{keep(1), keep(0)}},
 		{"a=x b>a c=x", "a=x b=x", []api.Source{keep(0), keep(1)}},
 	} {
-		matches(t, x.s+" to "+x.t, grow(t, x.s), grow(t, x.t), nil, x.want...)
+		matches(t, x.s+" to "+x.t, sample.Tree(t, x.s), sample.Tree(t, x.t), nil, x.want...)
 	}
 }
 
@@ -179,35 +135,35 @@ func TestP1101Rest(t *testing.T) {
 		// copies of what is kept: the first one by the order of files, whether it stands ahead or behind, whichever time kept it
 		{"z=x", "a=x b=x z=x", nil, []api.Source{copied(2), copied(2), keep(0)}},
 		{"m=x z=x", "c=x d=x m=x", nil, []api.Source{keep(1), copied(0), keep(0)}},
-		{"m=x z=x", "b=y c=x d=x m=x n=x", contents("y"), []api.Source{brought(0), keep(1), copied(1), keep(0), copied(1)}},
+		{"m=x z=x", "b=y c=x d=x m=x n=x", sample.Contents("y"), []api.Source{brought(0), keep(1), copied(1), keep(0), copied(1)}},
 		{"a=x b=x", "a=x b=x c=x", nil, []api.Source{keep(0), keep(1), copied(0)}},
-		{"b=x c=x", "b=x c=x d=x e=x", contents("x"), []api.Source{keep(0), keep(1), copied(0), copied(0)}},
+		{"b=x c=x", "b=x c=x d=x e=x", sample.Contents("x"), []api.Source{keep(0), keep(1), copied(0), copied(0)}},
 		// what is new, once
-		{"", "a=x", contents("x"), []api.Source{brought(0)}},
-		{"", "a=x b=x c=x", contents("x"), []api.Source{brought(0), copied(0), copied(0)}},
-		{"", "a=x b=y c=x d=y e=x", contents("y", "x"), []api.Source{brought(1), brought(0), copied(0), copied(1), copied(0)}},
-		{"", "a=x b>a c=x", contents("x"), []api.Source{brought(0), copied(0)}},
-		{"a=y", "a=x b=x", contents("x"), []api.Source{brought(0), copied(0)}},
-		{"a/ b=y", "a=x b=y", contents("x"), []api.Source{brought(0), keep(0)}},
+		{"", "a=x", sample.Contents("x"), []api.Source{brought(0)}},
+		{"", "a=x b=x c=x", sample.Contents("x"), []api.Source{brought(0), copied(0), copied(0)}},
+		{"", "a=x b=y c=x d=y e=x", sample.Contents("y", "x"), []api.Source{brought(1), brought(0), copied(0), copied(1), copied(0)}},
+		{"", "a=x b>a c=x", sample.Contents("x"), []api.Source{brought(0), copied(0)}},
+		{"a=y", "a=x b=x", sample.Contents("x"), []api.Source{brought(0), copied(0)}},
+		{"a/ b=y", "a=x b=y", sample.Contents("x"), []api.Source{brought(0), keep(0)}},
 		// the first place of the stock
-		{"", "a=x", contents("y", "x", "x", "y", "x"), []api.Source{brought(1)}},
-		{"", "a=x b=y", contents("y", "x", "x", "y", "x"), []api.Source{brought(1), brought(0)}},
-		{"", "a=xy b=x c=y", contents("", "y", "xyz", "x", "xy"), []api.Source{brought(4), brought(3), brought(1)}},
+		{"", "a=x", sample.Contents("y", "x", "x", "y", "x"), []api.Source{brought(1)}},
+		{"", "a=x b=y", sample.Contents("y", "x", "x", "y", "x"), []api.Source{brought(1), brought(0)}},
+		{"", "a=xy b=x c=y", sample.Contents("", "y", "xyz", "x", "xy"), []api.Source{brought(4), brought(3), brought(1)}},
 		// a content of no bytes is one, too
-		{"", "a= b=", contents("x", "", ""), []api.Source{brought(1), copied(0)}},
+		{"", "a= b=", sample.Contents("x", "", ""), []api.Source{brought(1), copied(0)}},
 		{"", "a=", [][]byte{nil}, []api.Source{brought(0)}},
 		{"a=", "b= c=", nil, []api.Source{keep(0), copied(0)}},
 		// the stock is not asked for what there is
-		{"a=x", "b=x", contents("x"), []api.Source{keep(0)}},
-		{"a=x", "a=x b=x", contents("x"), []api.Source{keep(0), copied(0)}},
+		{"a=x", "b=x", sample.Contents("x"), []api.Source{keep(0)}},
+		{"a=x", "a=x b=x", sample.Contents("x"), []api.Source{keep(0), copied(0)}},
 	} {
-		matches(t, x.s+" to "+x.t, grow(t, x.s), grow(t, x.t), x.stock, x.want...)
+		matches(t, x.s+" to "+x.t, sample.Tree(t, x.s), sample.Tree(t, x.t), x.stock, x.want...)
 	}
 }
 
 // TestP1101Modes: modes, of files and directories, say nothing of where a file comes from.
 func TestP1101Modes(t *testing.T) {
-	a, b := grow(t, "a=x b=x c/"), grow(t, "b=x c/ d=x e=x")
+	a, b := sample.Tree(t, "a=x b=x c/"), sample.Tree(t, "b=x c/ d=x e=x")
 	for i := range b.Files {
 		b.Files[i].Mode = 100 * i
 	}
@@ -224,26 +180,17 @@ func TestP1101Missing(t *testing.T) {
 	}{
 		{"", "a=x", nil},
 		{"", "a=", nil},
-		{"", "a=", contents("x")},
-		{"", "a=x", contents("", "y", "xx", "X")},
-		{"a=y", "a=x", contents("y")},
+		{"", "a=", sample.Contents("x")},
+		{"", "a=x", sample.Contents("", "y", "xx", "X")},
+		{"a=y", "a=x", sample.Contents("y")},
 		{"a=x", "a=x b=y", nil},
-		{"a=x b=y", "a=y b=x c=z", contents("x", "y")},
-		{"", "a=z b=x", contents("x")},
-		{"", "a=x b=x c=x d=z", contents("x")},
+		{"a=x b=y", "a=y b=x c=z", sample.Contents("x", "y")},
+		{"", "a=z b=x", sample.Contents("x")},
+		{"", "a=x b=x c=x d=z", sample.Contents("x")},
 		{"x/", "x=x", nil},
 	} {
-		refuses(t, x.s+" to "+x.t, grow(t, x.s), grow(t, x.t), x.stock, api.ErrMissing)
+		refuses(t, x.s+" to "+x.t, sample.Tree(t, x.s), sample.Tree(t, x.t), x.stock, api.ErrMissing)
 	}
-}
-
-// flat has so many directories in the root.
-func flat(n int) api.Tree {
-	var x api.Tree
-	for i := range n {
-		x.Nodes = append(x.Nodes, api.Node{Path: strconv.Itoa(1000 + i), File: -1})
-	}
-	return x
 }
 
 // wrong are trees that are not right, and what is wrong with them.
@@ -251,8 +198,8 @@ func wrong() map[api.Errno][]api.Tree {
 	one := []api.File{{Data: []byte("x")}}
 	return map[api.Errno][]api.Tree{
 		api.ErrBound: {
-			flat(api.MaxNodes + 1),
-			flat(api.MaxLoose + 1),
+			sample.Flat(api.MaxNodes + 1),
+			sample.Flat(api.MaxLoose + 1),
 			{Files: make([]api.File, api.MaxLoose+1)},
 			{Nodes: []api.Node{{Path: "a"}}, Files: []api.File{{Data: make([]byte, api.MaxData+1)}}},
 			{Nodes: make([]api.Node, api.MaxNodes+1)},
@@ -277,8 +224,8 @@ func wrong() map[api.Errno][]api.Tree {
 
 // TestErrors: P1101, P1102: of all that is wrong the first thing is told: the source, the target, the stock, what is missing.
 func TestErrors(t *testing.T) {
-	a, b := grow(t, "a=x"), grow(t, "a=x b=y")
-	good, short, long := contents("y"), contents("z"), contents("y", strings.Repeat("y", api.MaxData+1))
+	a, b := sample.Tree(t, "a=x"), sample.Tree(t, "a=x b=y")
+	good, short, long := sample.Contents("y"), sample.Contents("z"), sample.Contents("y", strings.Repeat("y", api.MaxData+1))
 	for e, list := range wrong() {
 		for _, x := range list {
 			for _, stock := range [][][]byte{nil, good, short, long} {
@@ -360,7 +307,7 @@ func TestP1102Fresh(t *testing.T) {
 		{"a/ a/q=x", "a=y b>a c=xx", []string{"y", "xx"}},
 		{"a=xx b=y", "a=x b=yy c= d=xxx", []string{"x", "yy", "", "xxx"}},
 	} {
-		fresh(t, x.s+" to "+x.t, grow(t, x.s), grow(t, x.t), x.want...)
+		fresh(t, x.s+" to "+x.t, sample.Tree(t, x.s), sample.Tree(t, x.t), x.want...)
 	}
 }
 
@@ -414,7 +361,7 @@ func sound(t *testing.T, a, b api.Tree, stock [][]byte) {
 	}
 	news, f := Fresh(a, b)
 	is(t, "Fresh", f, api.OK)
-	has := strs(stock)
+	has := sample.Texts(stock)
 	lacks := slices.ContainsFunc(news, func(c []byte) bool { return !slices.Contains(has, string(c)) })
 	is(t, "ErrMissing where something fresh is missing", e == api.ErrMissing, lacks)
 	if e != api.OK {
@@ -440,7 +387,7 @@ func sound(t *testing.T, a, b api.Tree, stock [][]byte) {
 			written = append(written, data)
 		}
 	}
-	if !slices.Equal(written, strs(news)) {
+	if !slices.Equal(written, sample.Texts(news)) {
 		t.Errorf("new: %q, fresh: %q", written, news)
 	}
 	for from, count := range taken {
@@ -498,11 +445,11 @@ func TestP1103All(t *testing.T) {
 	for _, a := range list {
 		for _, b := range list {
 			sound(t, a, b, nil)
-			sound(t, a, b, contents("y", "", "y", "x"))
+			sound(t, a, b, sample.Contents("y", "", "y", "x"))
 		}
 	}
 	for i, a := range list {
-		sound(t, a, list[len(list)-1-i], contents("x", "x"))
+		sound(t, a, list[len(list)-1-i], sample.Contents("x", "x"))
 	}
 }
 
@@ -540,7 +487,7 @@ func TestP1103Chance(t *testing.T) {
 	r := rand.New(rand.NewSource(11))
 	for range 4000 {
 		a, b := chance(t, r), chance(t, r)
-		stock := contents("yy", "", "x", "y", "x", "xx", "yy")
+		stock := sample.Contents("yy", "", "x", "y", "x", "xx", "yy")
 		r.Shuffle(len(stock), func(i, j int) { stock[i], stock[j] = stock[j], stock[i] })
 		sound(t, a, b, stock)
 		sound(t, a, b, stock[:r.Intn(len(stock)+1)])
@@ -548,41 +495,17 @@ func TestP1103Chance(t *testing.T) {
 	}
 }
 
-// room is bytes with as many spare ones behind them.
-func room(b []byte) []byte {
-	return append(bytes.Clone(b), bytes.Repeat([]byte{'r'}, 1+len(b))...)[:len(b)]
-}
-
-// roomy is a tree in lists with spare room.
-func roomy(x api.Tree) api.Tree {
-	nodes := append(slices.Clone(x.Nodes), api.Node{Path: "spare", File: 5, Mode: 6}, api.Node{Path: "zz"})
-	files := append(slices.Clone(x.Files), api.File{Mode: 3, Data: []byte("spare")})
-	for i, f := range files {
-		files[i].Data = room(f.Data)
-	}
-	return api.Tree{Nodes: nodes[:len(x.Nodes)], Files: files[:len(x.Files)]}
-}
-
-// whole is all that stands in a tree's lists, spare room too.
-func whole(x api.Tree) api.Tree {
-	w := api.Tree{Nodes: slices.Clone(x.Nodes[:cap(x.Nodes)]), Files: slices.Clone(x.Files[:cap(x.Files)])}
-	for i, f := range w.Files {
-		w.Files[i].Data = bytes.Clone(f.Data[:cap(f.Data)])
-	}
-	return w
-}
-
 // TestP1104Stays: what is handed in stays, also where what was answered is turned; what was answered stays where what was handed in is turned.
 func TestP1104Stays(t *testing.T) {
 	r := rand.New(rand.NewSource(12))
 	for range 300 {
-		a, b := roomy(chance(t, r)), roomy(chance(t, r))
-		stock := [][]byte{room([]byte("yy")), room([]byte("x")), room(nil), room([]byte("xx")), room([]byte("y")), []byte("spare")}[:5]
-		wasA, wasB := whole(a), whole(b)
+		a, b := sample.Roomy(chance(t, r)), sample.Roomy(chance(t, r))
+		stock := [][]byte{sample.Room([]byte("yy")), sample.Room([]byte("x")), sample.Room(nil), sample.Room([]byte("xx")), sample.Room([]byte("y")), []byte("spare")}[:5]
+		wasA, wasB := sample.Whole(a), sample.Whole(b)
 		list, e := Match(a, b, stock)
 		is(t, "Match", e, api.OK)
 		news, _ := Fresh(a, b)
-		texts := strs(news)
+		texts := sample.Texts(news)
 		clear(list[:cap(list)])
 		for _, c := range news {
 			clear(c[:cap(c)])
@@ -591,13 +514,13 @@ func TestP1104Stays(t *testing.T) {
 			c := stock[:6][i]
 			is(t, "the stock", string(c[:min(cap(c), len(want))]), want)
 		}
-		if !reflect.DeepEqual(whole(a), wasA) || !reflect.DeepEqual(whole(b), wasB) {
-			t.Fatalf("%v to %v, was %v to %v", whole(a), whole(b), wasA, wasB)
+		if !reflect.DeepEqual(sample.Whole(a), wasA) || !reflect.DeepEqual(sample.Whole(b), wasB) {
+			t.Fatalf("%v to %v, was %v to %v", sample.Whole(a), sample.Whole(b), wasA, wasB)
 		}
 		list, _ = Match(a, b, stock)
 		was := slices.Clone(list)
 		news, _ = Fresh(a, b)
-		is(t, "told anew", strings.Join(strs(news), ","), strings.Join(texts, ","))
+		is(t, "told anew", strings.Join(sample.Texts(news), ","), strings.Join(texts, ","))
 		for _, x := range []api.Tree{a, b} {
 			for _, f := range x.Files {
 				clear(f.Data[:cap(f.Data)])
@@ -606,14 +529,14 @@ func TestP1104Stays(t *testing.T) {
 			clear(x.Files)
 		}
 		clear(stock)
-		is(t, "what was told", strings.Join(strs(news), ","), strings.Join(texts, ","))
+		is(t, "what was told", strings.Join(sample.Texts(news), ","), strings.Join(texts, ","))
 		is(t, "what was told", slices.Equal(list, was), true)
 	}
 }
 
 // TestP1104Own: each list of an answer is its own.
 func TestP1104Own(t *testing.T) {
-	a, b := grow(t, ""), grow(t, "a=xyz b=xyz c=yz d= e=z")
+	a, b := sample.Tree(t, ""), sample.Tree(t, "a=xyz b=xyz c=yz d= e=z")
 	one, _ := Fresh(a, b)
 	two, _ := Fresh(a, b)
 	for i := range one {
@@ -623,15 +546,15 @@ func TestP1104Own(t *testing.T) {
 			one[i][j] = '!'
 		}
 		want := []string{"xyz", "yz", "", "z"}
-		is(t, "the other answer", strings.Join(strs(two), ","), strings.Join(want, ","))
-		is(t, "the other lists", strings.Join(strs(one[i+1:]), ","), strings.Join(want[i+1:], ","))
+		is(t, "the other answer", strings.Join(sample.Texts(two), ","), strings.Join(want, ","))
+		is(t, "the other lists", strings.Join(sample.Texts(one[i+1:]), ","), strings.Join(want[i+1:], ","))
 	}
 	fresh(t, "told anew", a, b, "xyz", "yz", "", "z")
 }
 
 func TestExamples(t *testing.T) {
-	a, b := grow(t, "a=x b=y"), grow(t, "a=y c=x d=x e=z f=z")
-	matches(t, "the chapter's", a, b, contents("z"), keep(1), keep(0), copied(1), brought(0), copied(3))
+	a, b := sample.Tree(t, "a=x b=y"), sample.Tree(t, "a=y c=x d=x e=z f=z")
+	matches(t, "the chapter's", a, b, sample.Contents("z"), keep(1), keep(0), copied(1), brought(0), copied(3))
 	fresh(t, "the chapter's", a, b, "z")
 	refuses(t, "without the stock", a, b, nil, api.ErrMissing)
 }
