@@ -5,8 +5,6 @@ import (
 	"math/rand"
 	"reflect"
 	"slices"
-	"strconv"
-	"strings"
 	"sync"
 	"testing"
 
@@ -25,41 +23,17 @@ func is[T comparable](t *testing.T, what string, got, want T) {
 	}
 }
 
-// lists are lists of numbers by words: "1, 0 0, -" are 1; 0 0; none.
-func lists(t *testing.T, words string) [][]int {
-	t.Helper()
-	var all [][]int
-	if words == "" {
-		return nil
-	}
-	for _, words := range strings.Split(words, ",") {
-		var list []int
-		for _, w := range strings.Fields(words) {
-			if w == "-" {
-				continue
-			}
-			n, err := strconv.Atoi(w)
-			if err != nil {
-				t.Fatalf("no number: %q", w)
-			}
-			list = append(list, n)
-		}
-		all = append(all, list)
-	}
-	return all
-}
-
 // rows are needs, the components of them, and those that go round.
 type rows []struct{ needs, all, round string }
 
 func (r rows) hold(t *testing.T) {
 	t.Helper()
 	for _, x := range r {
-		needs := lists(t, x.needs)
+		needs := sample.Lists(t, x.needs)
 		all, e := comp.Components(needs)
-		is(t, x.needs+": Components", fmt.Sprint(all, e), fmt.Sprint(lists(t, x.all), api.OK))
+		is(t, x.needs+": Components", fmt.Sprint(all, e), fmt.Sprint(sample.Lists(t, x.all), api.OK))
 		round, e := comp.Round(needs)
-		is(t, x.needs+": Round", fmt.Sprint(round, e), fmt.Sprint(lists(t, x.round), api.OK))
+		is(t, x.needs+": Round", fmt.Sprint(round, e), fmt.Sprint(sample.Lists(t, x.round), api.OK))
 	}
 }
 
@@ -95,7 +69,7 @@ func TestP1401Errors(t *testing.T) {
 	refused(t, "no place, then too many numbers", append(each(1, 1, 9), each(1, api.MaxActs+1, 0)...), api.ErrLong)
 	refused(t, "far too many", each(5*api.MaxActs, 3, 0), api.ErrLong)
 	for _, words := range []string{"1", "-1", "0 1", "1 0", "0 -1", "1,2", "0,-,3", "-,-,0 1 2 3", "5", "9223372036854775807", "-9223372036854775808", "0,4294967296"} {
-		refused(t, words, lists(t, words), api.ErrArg)
+		refused(t, words, sample.Lists(t, words), api.ErrArg)
 	}
 	refused(t, "no place behind many", append(each(api.MaxActs-1, api.MaxActs, 0), []int{api.MaxActs}), api.ErrArg)
 	refused(t, "no place as the last of many", append(each(1, api.MaxActs, 0), append(slices.Repeat([]int{0}, api.MaxActs-1), 2)), api.ErrArg)
@@ -269,25 +243,14 @@ func TestP1401Small(t *testing.T) {
 	}
 }
 
-// chance is needs by chance: of so many numbers, each of at most so many.
-func chance(r *rand.Rand, count, most int) [][]int {
-	needs := make([][]int, count)
-	for i := range needs {
-		for range r.Intn(most + 1) {
-			needs[i] = append(needs[i], r.Intn(count))
-		}
-	}
-	return needs
-}
-
 // TestP1401Chance: needs by chance, in any order, with numbers that stand more than once.
 func TestP1401Chance(t *testing.T) {
 	r := rand.New(rand.NewSource(141))
 	for range 6000 {
-		sound(t, chance(r, 1+r.Intn(14), r.Intn(4)))
+		sound(t, sample.Needs(r, 1+r.Intn(14), r.Intn(4)))
 	}
 	for range 30 {
-		sound(t, chance(r, 60+r.Intn(60), 1+r.Intn(3)))
+		sound(t, sample.Needs(r, 60+r.Intn(60), 1+r.Intn(3)))
 	}
 }
 
@@ -366,34 +329,6 @@ func TestP1401Great(t *testing.T) {
 	is(t, "a pair", fmt.Sprint(list[3]), "[6 7]")
 }
 
-// roomy is these lists with spare room in each, and in the list of them.
-func roomy(list [][]int) [][]int {
-	all := append(slices.Clone(list), []int{-7}, nil)
-	for i, l := range list {
-		all[i] = append(slices.Clone(l), 77, 78, 79)[:len(l)]
-	}
-	return all[:len(list)]
-}
-
-// whole is all that stands in lists, spare room too, in memory of its own.
-func whole(list [][]int) [][]int {
-	all := slices.Clone(list[:cap(list)])
-	for i, l := range all {
-		all[i] = slices.Clone(l[:cap(l)])
-	}
-	return all
-}
-
-// spoil writes over all that a list of lists has, spare room too.
-func spoil(list [][]int) {
-	for _, l := range list {
-		l = l[:cap(l)]
-		for i := range l {
-			l[i] = -9
-		}
-	}
-}
-
 // calls are the package's calls by their names.
 var calls = map[string]func([][]int) ([][]int, api.Errno){"Components": comp.Components, "Round": comp.Round}
 
@@ -402,39 +337,39 @@ func TestP1403Stays(t *testing.T) {
 	r := rand.New(rand.NewSource(143))
 	for range 500 {
 		for name, call := range calls {
-			needs := roomy(chance(r, 1+r.Intn(9), r.Intn(3)))
-			was := whole(needs)
+			needs := sample.RoomyLists(sample.Needs(r, 1+r.Intn(9), r.Intn(3)))
+			was := sample.WholeLists(needs)
 			list, e := call(needs)
 			is(t, name, e, api.OK)
 			told := fmt.Sprint(list)
-			spoil(list)
+			sample.Spoil(list)
 			clear(list[:cap(list)])
-			if now := whole(needs); !reflect.DeepEqual(now, was) {
+			if now := sample.WholeLists(needs); !reflect.DeepEqual(now, was) {
 				t.Fatalf("%s: %v, was %v", name, now, was)
 			}
 			list, _ = call(needs)
 			is(t, name+" anew", fmt.Sprint(list), told)
-			spoil(needs)
+			sample.Spoil(needs)
 			clear(needs)
 			is(t, name+": what was told", fmt.Sprint(list), told)
 		}
 	}
-	wrong := roomy(lists(t, "1,2,-,0 4"))
-	was := whole(wrong)
+	wrong := sample.RoomyLists(sample.Lists(t, "1,2,-,0 4"))
+	was := sample.WholeLists(wrong)
 	refused(t, "no place", wrong, api.ErrArg)
-	is(t, "what is refused stays", reflect.DeepEqual(whole(wrong), was), true)
+	is(t, "what is refused stays", reflect.DeepEqual(sample.WholeLists(wrong), was), true)
 }
 
 // TestP1403Own: no two lists of an answer have memory together.
 func TestP1403Own(t *testing.T) {
-	needs := lists(t, "1,0,2,4,5,3,-,8,7,9")
+	needs := sample.Lists(t, "1,0,2,4,5,3,-,8,7,9")
 	for name, call := range calls {
 		want, e := call(needs)
 		is(t, name, e, api.OK)
 		for i := range want {
 			got, _ := call(needs)
 			_ = append(got[i], 7, 7, 7)
-			spoil(got[i : i+1])
+			sample.Spoil(got[i : i+1])
 			for j := range got {
 				if j != i {
 					is(t, name+": another list", fmt.Sprint(got[j]), fmt.Sprint(want[j]))
@@ -446,7 +381,7 @@ func TestP1403Own(t *testing.T) {
 
 // TestTogether: calls at one time hinder one another in nothing.
 func TestTogether(t *testing.T) {
-	needs := lists(t, "1,0 2,3,2,4,-")
+	needs := sample.Lists(t, "1,0 2,3,2,4,-")
 	var wait sync.WaitGroup
 	for range 8 {
 		wait.Go(func() {
@@ -468,5 +403,5 @@ func TestExamples(t *testing.T) {
 		{"1,-,2", "1,0,2", "2"},
 		{"3,-,1,-", "1,2,3,0", ""},
 	}.hold(t)
-	refused(t, "5", lists(t, "5"), api.ErrArg)
+	refused(t, "5", sample.Lists(t, "5"), api.ErrArg)
 }

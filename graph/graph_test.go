@@ -387,20 +387,8 @@ func TestP1301Plain(t *testing.T) {
 func done(t *testing.T, r *rand.Rand, a, b api.Tree, acts []api.Act, needs [][]int, stock [][]byte) bool {
 	t.Helper()
 	var list []api.Ins
-	behind := map[int]bool{}
-	for {
-		var ready []int
-		for i, need := range needs {
-			if !behind[i] && !slices.ContainsFunc(need, func(at int) bool { return !behind[at] }) {
-				ready = append(ready, i)
-			}
-		}
-		if len(ready) == 0 {
-			break
-		}
-		next := ready[r.Intn(len(ready))]
-		behind[next] = true
-		list = append(list, acts[next])
+	for _, at := range sample.Line(r, needs) {
+		list = append(list, acts[at])
 	}
 	got, n, e := model.Run(a, list, stock)
 	if e != api.OK {
@@ -498,16 +486,6 @@ func whole(x api.Tree, acts []api.Act) (api.Tree, []api.Act) {
 	return sample.Whole(x), slices.Clone(acts[:cap(acts)])
 }
 
-// spoil writes over all that a list of lists has, spare room too, one list ahead of the other.
-func spoil(lists [][]int) {
-	for _, l := range lists {
-		l = l[:cap(l)]
-		for i := range l {
-			l[i] = -9
-		}
-	}
-}
-
 // TestP1303Stays: what is handed in stays, also where what was answered is turned; what was answered stays where what was handed in is turned.
 func TestP1303Stays(t *testing.T) {
 	r := rand.New(rand.NewSource(135))
@@ -521,7 +499,7 @@ func TestP1303Stays(t *testing.T) {
 		list, e := graph.Needs(a, acts)
 		is(t, "Needs", e, api.OK)
 		was := fmt.Sprint(list)
-		spoil(list)
+		sample.Spoil(list)
 		clear(list[:cap(list)])
 		isA, isActs := whole(a, acts)
 		if !reflect.DeepEqual(isA, wasA) || !slices.Equal(isActs, wasActs) {
@@ -548,7 +526,7 @@ func TestP1303Own(t *testing.T) {
 	is(t, "what is told", fmt.Sprint(list), "[[2 3 4] [2 3 4] [] [] [] [2] [2] [5] [5]]")
 	for i := range list {
 		others, _ := graph.Needs(s, acts)
-		spoil(others[i : i+1])
+		sample.Spoil(others[i : i+1])
 		for j := range others {
 			if j != i {
 				is(t, "another list", fmt.Sprint(others[j]), fmt.Sprint(list[j]))

@@ -1,4 +1,4 @@
-// Package sample has trees, actions and contents for the tests of the other packages; no layer calls it.
+// Package sample has trees, actions, contents and lists of numbers for the tests of the other packages; no layer calls it.
 package sample
 
 import (

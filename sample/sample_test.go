@@ -95,3 +95,51 @@ func TestContents(t *testing.T) {
 		t.Error(got)
 	}
 }
+
+func TestLists(t *testing.T) {
+	for words, want := range map[string]string{"": "[]", "-": "[[]]", "1, 0 0,-, -7": "[[1] [0 0] [] [-7]]", "-,": "[[] []]"} {
+		if got := fmt.Sprint(sample.Lists(t, words)); got != want {
+			t.Errorf("%q: %s, want %s", words, got, want)
+		}
+	}
+	d := &deaf{}
+	sample.Lists(d, "1,x")
+	if d.failed == 0 {
+		t.Error("x: nothing failed")
+	}
+	r := rand.New(rand.NewSource(2))
+	for range 100 {
+		list := sample.RoomyLists(sample.Needs(r, 5, 3))
+		was := fmt.Sprint(list)
+		whole := sample.WholeLists(list)
+		if len(list) != 5 || len(whole) != cap(list) || len(whole) < 7 {
+			t.Errorf("%v of %v", whole, list)
+		}
+		for i, l := range list {
+			if len(l) > 3 || !slices.Equal(l[:len(l)+3], append(slices.Clone(l), 77, 78, 79)) || !slices.Equal(whole[i], l[:cap(l)]) {
+				t.Errorf("%v of %v", whole[i], l)
+			}
+		}
+		sample.Spoil(whole)
+		if fmt.Sprint(list) != was {
+			t.Errorf("%v, was %s", list, was)
+		}
+		sample.Spoil(list)
+		for _, l := range sample.WholeLists(list)[:5] {
+			if slices.ContainsFunc(l, func(n int) bool { return n != -9 }) {
+				t.Errorf("%v", l)
+			}
+		}
+	}
+}
+
+func TestLine(t *testing.T) {
+	r := rand.New(rand.NewSource(3))
+	seen := map[string]int{}
+	for range 100 {
+		seen[fmt.Sprint(sample.Line(r, sample.Lists(t, "1,-,0 1,4,3,-,6")))]++
+	}
+	if len(seen) != 4 || seen["[1 0 2 5]"] == 0 || seen["[1 0 5 2]"] == 0 || seen["[1 5 0 2]"] == 0 || seen["[5 1 0 2]"] == 0 {
+		t.Error(seen)
+	}
+}
