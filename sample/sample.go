@@ -1,4 +1,4 @@
-// Package sample has trees, actions, contents and lists of numbers for the tests of the other packages; no layer calls it.
+// Package sample has trees, actions, instructions, contents and lists of numbers for the tests of the other packages; no layer calls it.
 package sample
 
 import (
@@ -53,6 +53,20 @@ func Acts(t Test, words string) []api.Act {
 		if w := strings.Fields(words); len(w) > 0 {
 			list = append(list, read(t, w))
 		}
+	}
+	return list
+}
+
+// Ins are instructions by words, as Acts has them, and "sync".
+func Ins(t Test, words string) []api.Ins {
+	t.Helper()
+	var list []api.Ins
+	for _, words := range strings.Split(words, "; ") {
+		if words == "sync" {
+			list = append(list, api.Ins{Op: api.OpSync})
+			continue
+		}
+		list = append(list, Acts(t, words)...)
 	}
 	return list
 }

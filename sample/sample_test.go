@@ -58,6 +58,24 @@ func TestActs(t *testing.T) {
 	}
 }
 
+func TestIns(t *testing.T) {
+	got := sample.Ins(t, "sync; unlink a; mkdir c 1; sync; sync")
+	want := []api.Ins{{Op: api.OpSync}, {Op: api.OpUnlink, Path: "a"}, {Op: api.OpMkdir, Path: "c", Mode: 1}, {Op: api.OpSync}, {Op: api.OpSync}}
+	if !slices.Equal(got, want) {
+		t.Errorf("%v, want %v", got, want)
+	}
+	if got := sample.Ins(t, ""); len(got) != 0 {
+		t.Errorf("%v, want none", got)
+	}
+	for _, words := range []string{"unlink", "sync a", "sync; mkdir a"} {
+		d := &deaf{}
+		sample.Ins(d, words)
+		if d.failed == 0 {
+			t.Errorf("%s: nothing failed", words)
+		}
+	}
+}
+
 func TestMany(t *testing.T) {
 	r := rand.New(rand.NewSource(1))
 	list := append(sample.Small(), sample.Tree(t, ""), sample.Flat(api.MaxNodes))
